@@ -26,7 +26,7 @@ func checkFrame(s api.Sailing) api.Errno {
 	return api.OK
 }
 
-// checkBookings goes booking by booking in all: the first of which something is wrong tells.
+// checkBookings goes booking by booking: the first of which something is wrong tells.
 func checkBookings(s api.Sailing) api.Errno {
 	ahead := 0 // any Id that is right is more
 	for _, b := range s.Bookings {
@@ -36,10 +36,15 @@ func checkBookings(s api.Sailing) api.Errno {
 		if b.Id <= ahead {
 			return api.ErrState
 		}
-		if isLive(b) && b.Kind == api.KindPromise && hasCabin(b) != s.Closed {
-			return api.ErrState
-		}
 		ahead = b.Id
+	}
+	return api.OK
+}
+
+// checkClosed speaks of the sailing, not of one booking, so it comes behind what is wrong with any of them.
+func checkClosed(s api.Sailing) api.Errno {
+	if slices.ContainsFunc(s.Bookings, func(b api.Booking) bool { return isLivePromise(b) && hasCabin(b) != s.Closed }) {
+		return api.ErrState
 	}
 	return api.OK
 }

@@ -143,7 +143,7 @@ func busy() api.Sailing {
 	)
 }
 
-// faults in the order in which the document names them, booking by booking.
+// faults in the order in which the document names them: what is wrong with the bookings, one by one, ahead of what is wrong with all of them.
 func faults() []fault {
 	return []fault{
 		{"no leg", func(s *api.Sailing) { s.Ship.Legs = 0 }, api.ErrRange},
@@ -163,12 +163,13 @@ func faults() []fault {
 		{"second one's id is that of the first", of(1, func(b *api.Booking) { b.Id = 10 }), api.ErrState},
 		{"second one's id is less", of(1, func(b *api.Booking) { b.Id = 9 }), api.ErrState},
 		{"third one's category", of(2, func(b *api.Booking) { b.Category = 4 }), api.ErrRange},
-		{"third one has a cabin", of(2, func(b *api.Booking) { b.Cabin = 1 }), api.ErrState},
 		{"fourth one's state", of(3, func(b *api.Booking) { b.State = 9 }), api.ErrKind},
 		{"fourth one's until", of(3, func(b *api.Booking) { b.Until = 10000 }), api.ErrRange},
-		{"fourth one has a cabin", of(3, func(b *api.Booking) { b.Cabin = 2 }), api.ErrState},
 		{"one that is gone is wrong", of(6, func(b *api.Booking) { b.Kind = 0 }), api.ErrKind},
 		{"one that is gone has the id of another one", of(6, func(b *api.Booking) { b.Id = 15 }), api.ErrState},
+		{"third one has a cabin", of(2, func(b *api.Booking) { b.Cabin = 1 }), api.ErrState},
+		{"fourth one has a cabin", of(3, func(b *api.Booking) { b.Cabin = 2 }), api.ErrState},
+		{"closed with open promises", func(s *api.Sailing) { s.Closed = true }, api.ErrState},
 		{"spans meet", of(1, func(b *api.Booking) { b.Span.From = 1 }), api.ErrTwice},
 		{"few souls", func(s *api.Sailing) { s.Ship.Souls = 6 }, api.ErrMany},
 		{"no cabin left", func(s *api.Sailing) { s.Bookings[2].Category, s.Bookings[3].Category = 3, 3 }, api.ErrFull},
@@ -221,8 +222,14 @@ func TestH1Told(t *testing.T) {
 		{"kept promise, closed", closed(in(1, promise(1, 0, 1))), api.OK},
 		{"kept promise that is gone, closed", closed(gone(in(1, promise(1, 0, 1)))), api.OK},
 		{"named, closed", closed(named(1, 0, 1, 0, 1)), api.OK},
-		{"kept promise ahead of a wrong one", sailing(in(1, promise(1, 0, 1)), api.Booking{}), api.ErrState},
+		{"kept promise ahead of a wrong one", sailing(in(1, promise(1, 0, 1)), api.Booking{}), api.ErrKind},
 		{"kept promise behind a wrong one", sailing(api.Booking{}, in(1, promise(1, 0, 1))), api.ErrKind},
+		{"kept promise far ahead of a wrong one", sailing(in(1, promise(1, 0, 1)), named(2, 0, 1, 0, 1), gone(named(3, 9, 1, 0, 1))), api.ErrRange},
+		{"open promise ahead of a wrong one, closed", closed(promise(1, 0, 1), named(2, 5, 1, 0, 1)), api.ErrRange},
+		{"open promise behind a wrong one, closed", closed(named(1, 5, 1, 0, 1), promise(2, 0, 1)), api.ErrRange},
+		{"an id that is not more ahead of a wrong one", sailing(named(2, 0, 1, 0, 1), named(2, 1, 1, 0, 1), named(3, 5, 1, 0, 1)), api.ErrState},
+		{"an id that is not more behind a wrong one", sailing(named(2, 0, 1, 0, 1), named(3, 5, 1, 0, 1), named(2, 1, 1, 0, 1)), api.ErrRange},
+		{"kept promise ahead of spans that meet", sailing(named(1, 0, 1, 0, 3), named(2, 0, 1, 2, 4), in(1, promise(3, 0, 1))), api.ErrState},
 		{"just as many souls", souls(sailing(named(1, 0, 2, 0, 2), promise(2, 0, 2), named(3, 3, 2, 2, 4)), 4), api.OK},
 		{"a soul more", souls(sailing(named(1, 0, 2, 0, 2), promise(2, 0, 2), named(3, 3, 2, 1, 4)), 5), api.ErrMany},
 		{"a soul more, of promises", souls(sailing(promise(1, 0, 2), promise(2, 0, 2)), 3), api.ErrMany},

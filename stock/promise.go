@@ -26,9 +26,7 @@ func checkMatched(s api.Sailing) api.Errno {
 
 // open promises: live, and without a cabin. They rise by Id, since all bookings do.
 func open(s api.Sailing) []api.Booking {
-	return those(s.Bookings, func(b api.Booking) bool {
-		return isLive(b) && b.Kind == api.KindPromise && !hasCabin(b)
-	})
+	return those(s.Bookings, func(b api.Booking) bool { return isLivePromise(b) && !hasCabin(b) })
 }
 
 // edges from each of some promises to each cabin that may keep it.
@@ -74,5 +72,7 @@ func those(l []api.Booking, counts func(api.Booking) bool) []api.Booking {
 }
 
 func isLive(b api.Booking) bool { return b.State != api.StateGone }
+
+func isLivePromise(b api.Booking) bool { return isLive(b) && b.Kind == api.KindPromise }
 
 func hasCabin(b api.Booking) bool { return b.Cabin != noCabin }
