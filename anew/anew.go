@@ -8,7 +8,7 @@ import (
 
 // Sailing that is another one in what a function does to it, if it is right then. What is handed in is only read, so the function is handed a copy.
 func Sailing(s api.Sailing, how func(next *api.Sailing) api.Errno) (api.Sailing, api.Errno) {
-	next := copied(s)
+	next := Copy(s)
 	if e := how(&next); e != api.OK {
 		return api.Sailing{}, e
 	}
@@ -18,8 +18,8 @@ func Sailing(s api.Sailing, how func(next *api.Sailing) api.Errno) (api.Sailing,
 	return next, api.OK
 }
 
-// copied: no list of it, at whatever depth, shares memory with another one.
-func copied(s api.Sailing) api.Sailing {
+// Copy of a sailing, right or not: no list of it, at whatever depth, shares memory with another one.
+func Copy(s api.Sailing) api.Sailing {
 	s.Ship.Categories = each(s.Ship.Categories, func(c api.Category) api.Category {
 		c.Higher = list(c.Higher)
 		return c

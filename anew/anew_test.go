@@ -69,6 +69,22 @@ func TestSame(t *testing.T) {
 	}
 }
 
+// TestCopy: a copy of what is not right, too.
+func TestCopy(t *testing.T) {
+	bad := sailing()
+	bad.Day, bad.Bookings[0].Id, bad.Bookings[2].Guests = -1, 0, 99
+	for _, s := range []api.Sailing{{}, sailing(), bad} {
+		was := fmt.Sprint(s)
+		next := anew.Copy(s)
+		if fmt.Sprint(next) != was || fmt.Sprint(s) != was {
+			t.Errorf("of %s it is %v, of %v", was, next, s)
+		}
+		if twice, _ := where(s, next); twice != 0 {
+			t.Errorf("%d bytes are shared", twice)
+		}
+	}
+}
+
 // TestChanged: whatever is done to what comes, what is handed in stays.
 func TestChanged(t *testing.T) {
 	s := sailing()
