@@ -65,6 +65,17 @@ func TestJ1Cancel(t *testing.T) {
 	}
 }
 
+// TestJ1CancelLeaves: from the day on which it leaves, there are no days till then.
+func TestJ1CancelLeaves(t *testing.T) {
+	b := with(named(1, 4, 1, 0, 1), fare(2, 440))
+	for day, part := range map[int]int{38: 220, 39: 220, 40: 440, 41: 440, 9999: 440} {
+		s := on(day, sailing(b))
+		s.Fares.Bands = []api.Band{{Days: 0, Part: 100}, {Days: 999, Part: 50}}
+		want := with(gone(b), fare(2, 440), back(day, -440), penalty(day, part))
+		wants(t, fmt.Sprint("on day ", day), change.Cancel, s, 1, want, api.OK)
+	}
+}
+
 // TestJ1CancelFirst: chapter 5 is asked ahead of chapter 6, but not of an option.
 func TestJ1CancelFirst(t *testing.T) {
 	b := with(named(1, 4, 1, 0, 1), append([]api.Entry{fare(0, 100000000), paid(0, 100000000)}, fares(10)...)...)
